@@ -72,8 +72,8 @@ func TestBlockKeepsBytesZero(t *testing.T) {
 	}
 }
 
-// TestMacExamples: the document's example, the first one here, is the first case of RFC 4231; so are the others its
-// cases, without the shortened one.
+// TestMacExamples: the cases of RFC 4231 (the first is the document's example) but the one whose tag is shortened, and
+// last, which isn't from there, no key and no text.
 func TestMacExamples(t *testing.T) {
 	rising := make([]byte, 25)
 	for i := range rising {
