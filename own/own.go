@@ -1,0 +1,17 @@
+// Package own copies things into memory of their own, since what was handed in may be changed by its owner.
+package own
+
+import (
+	"bytes"
+
+	"wristband/api"
+)
+
+// Engine that shares nothing with the one handed in.
+func Engine(g api.Engine) api.Engine {
+	terms := make([]api.Term, len(g.Terms))
+	for i, t := range g.Terms {
+		terms[i] = api.Term{Key: bytes.Clone(t.Key), Msg: bytes.Clone(t.Msg)}
+	}
+	return api.Engine{Kind: g.Kind, Terms: terms}
+}

@@ -1,0 +1,87 @@
+package own
+
+import (
+	"bytes"
+	"slices"
+	"testing"
+
+	"wristband/api"
+)
+
+// engines of any kind, right or not, built anew each time.
+func engines() []api.Engine {
+	text := []byte("text")
+	return []api.Engine{
+		{},
+		{Kind: api.Concrete},
+		{Kind: api.Symbolic, Terms: []api.Term{}},
+		{Kind: api.Symbolic, Terms: []api.Term{{}}},
+		{Kind: api.Symbolic, Terms: []api.Term{{Key: []byte("key"), Msg: []byte("text")}, {Key: []byte{0, 255}}, {Msg: []byte{7}}}},
+		{Kind: -3, Terms: []api.Term{{Key: text, Msg: text}, {Key: text, Msg: text[1:]}}},
+	}
+}
+
+// same engines, a list that is nil being an empty one?
+func same(a, b api.Engine) bool {
+	return a.Kind == b.Kind && slices.EqualFunc(a.Terms, b.Terms, func(x, y api.Term) bool {
+		return bytes.Equal(x.Key, y.Key) && bytes.Equal(x.Msg, y.Msg)
+	})
+}
+
+// spoil all of an engine's memory, its spare room, too.
+func spoil(g api.Engine) {
+	terms := g.Terms[:cap(g.Terms)]
+	for i, t := range terms {
+		for _, text := range [][]byte{t.Key[:cap(t.Key)], t.Msg[:cap(t.Msg)]} {
+			for k := range text {
+				text[k] ^= 85
+			}
+		}
+		terms[i] = api.Term{Key: []byte("spoilt"), Msg: []byte("spoilt")}
+	}
+}
+
+func TestEngineIsTheSame(t *testing.T) {
+	for i, g := range engines() {
+		if got := Engine(g); !same(got, engines()[i]) || !same(g, engines()[i]) {
+			t.Errorf("Engine(%v) = %v, and left %v", engines()[i], got, g)
+		}
+	}
+}
+
+func TestEngineSharesNothing(t *testing.T) {
+	for i, want := range engines() {
+		g := engines()[i]
+		got := Engine(g)
+		spoil(g)
+		if !same(got, want) {
+			t.Errorf("Engine(%v) keeps what was handed in: %v", want, got)
+		}
+		g = engines()[i]
+		spoil(Engine(g))
+		if !same(g, want) {
+			t.Errorf("Engine(%v) shares with what was handed in: %v", want, g)
+		}
+	}
+	text := []byte("text")
+	got := Engine(api.Engine{Terms: []api.Term{{Key: text, Msg: text}, {Key: text}}})
+	got.Terms[0].Key[0] = 'n'
+	if string(got.Terms[0].Msg) != "text" || string(got.Terms[1].Key) != "text" {
+		t.Errorf("texts of an answer share memory: %q", got.Terms)
+	}
+}
+
+// TestEngineHasNoneOfTheSpareRoom: what is behind a list or a text isn't copied.
+func TestEngineHasNoneOfTheSpareRoom(t *testing.T) {
+	text := []byte("textbehind")
+	terms := []api.Term{{Key: text[:4], Msg: text[:0]}, {Key: []byte("behind")}}
+	got := Engine(api.Engine{Kind: api.Symbolic, Terms: terms[:1]})
+	if len(got.Terms) != 1 || string(got.Terms[0].Key) != "text" || len(got.Terms[0].Msg) != 0 {
+		t.Errorf("an engine of one term came as %q", got.Terms)
+	}
+	_ = append(got.Terms[0].Key, "put on"...)
+	_ = append(got.Terms, api.Term{Key: []byte("put on")})
+	if string(text) != "textbehind" || string(terms[1].Key) != "behind" {
+		t.Errorf("what was put behind an answer stands in %q, %q", text, terms)
+	}
+}
