@@ -15,3 +15,11 @@ func Engine(g api.Engine) api.Engine {
 	}
 	return api.Engine{Kind: g.Kind, Terms: terms}
 }
+
+// Disk that shares nothing with the one handed in.
+func Disk(d api.Disk) api.Disk {
+	for k, a := range d.Areas {
+		d.Areas[k].Bytes = bytes.Clone(a.Bytes)
+	}
+	return d
+}

@@ -85,3 +85,78 @@ func TestEngineHasNoneOfTheSpareRoom(t *testing.T) {
 		t.Errorf("what was put behind an answer stands in %q, %q", text, terms)
 	}
 }
+
+// disks of any kind, right or not, built anew each time.
+func disks() []api.Disk {
+	text := []byte("text")
+	return []api.Disk{
+		{},
+		{Fuse: -1},
+		{Areas: [2]api.Area{{Bytes: []byte("one"), Sure: 2}, {Bytes: []byte{0, 255}, Sure: 1}}, Fuse: 3, Keep: 4, Down: true},
+		{Areas: [2]api.Area{{Bytes: []byte{}, Sure: -1}, {Bytes: []byte("other"), Sure: 9}}, Fuse: -7, Keep: -8},
+		{Areas: [2]api.Area{{Bytes: text}, {Bytes: text[1:], Sure: 3}}},
+	}
+}
+
+// sameDisk: bytes that are nil being empty ones?
+func sameDisk(a, b api.Disk) bool {
+	for k := range a.Areas {
+		if a.Areas[k].Sure != b.Areas[k].Sure || !bytes.Equal(a.Areas[k].Bytes, b.Areas[k].Bytes) {
+			return false
+		}
+	}
+	return a.Fuse == b.Fuse && a.Keep == b.Keep && a.Down == b.Down
+}
+
+// spoilArea: all of an area's bytes, its spare room, too.
+func spoilArea(a api.Area) {
+	b := a.Bytes[:cap(a.Bytes)]
+	for k := range b {
+		b[k] ^= 85
+	}
+}
+
+func TestDiskIsTheSame(t *testing.T) {
+	for i, d := range disks() {
+		if got := Disk(d); !sameDisk(got, disks()[i]) || !sameDisk(d, disks()[i]) {
+			t.Errorf("Disk(%v) = %v, and left %v", disks()[i], got, d)
+		}
+	}
+}
+
+func TestDiskSharesNothing(t *testing.T) {
+	for i, want := range disks() {
+		d := disks()[i]
+		got := Disk(d)
+		spoilArea(d.Areas[0])
+		spoilArea(d.Areas[1])
+		if !sameDisk(got, want) {
+			t.Errorf("Disk(%v) keeps what was handed in: %v", want, got)
+		}
+		d = disks()[i]
+		got = Disk(d)
+		spoilArea(got.Areas[0])
+		if !sameDisk(d, want) || !bytes.Equal(got.Areas[1].Bytes, want.Areas[1].Bytes) {
+			t.Errorf("the first area of Disk(%v) shares memory: %v, %v", want, d, got)
+		}
+		got = Disk(d)
+		spoilArea(got.Areas[1])
+		if !sameDisk(d, want) || !bytes.Equal(got.Areas[0].Bytes, want.Areas[0].Bytes) {
+			t.Errorf("the second area of Disk(%v) shares memory: %v, %v", want, d, got)
+		}
+	}
+}
+
+// TestDiskHasNoneOfTheSpareRoom: what is behind an area's bytes isn't copied.
+func TestDiskHasNoneOfTheSpareRoom(t *testing.T) {
+	room := []byte("textbehind")
+	got := Disk(api.Disk{Areas: [2]api.Area{{Bytes: room[:4]}, {Bytes: room[:0]}}})
+	if string(got.Areas[0].Bytes) != "text" || len(got.Areas[1].Bytes) != 0 {
+		t.Errorf("a disk came as %v", got.Areas)
+	}
+	_ = append(got.Areas[0].Bytes, "put on"...)
+	_ = append(got.Areas[1].Bytes, "put on"...)
+	if string(room) != "textbehind" {
+		t.Errorf("what was put behind an answer stands in %q", room)
+	}
+}
