@@ -3,6 +3,7 @@ package own
 
 import (
 	"bytes"
+	"slices"
 
 	"wristband/api"
 )
@@ -22,4 +23,10 @@ func Disk(d api.Disk) api.Disk {
 		d.Areas[k].Bytes = bytes.Clone(a.Bytes)
 	}
 	return d
+}
+
+// Cache that shares nothing with the one handed in.
+func Cache(c api.Cache) api.Cache {
+	c.Seen = slices.Clone(c.Seen)
+	return c
 }

@@ -160,3 +160,63 @@ func TestDiskHasNoneOfTheSpareRoom(t *testing.T) {
 		t.Errorf("what was put behind an answer stands in %q", room)
 	}
 }
+
+// caches of any kind, right or not, built anew each time.
+func caches() []api.Cache {
+	return []api.Cache{
+		{},
+		{Room: 64, Floor: 7, Seen: []api.Use{}},
+		{Room: 3, Seen: []api.Use{{Ticket: 5, Epoch: 1, Counter: 10}, {Ticket: 6}}},
+		{Room: -1, Floor: 9, Seen: []api.Use{{Counter: 8}, {Epoch: 2}, {Counter: 8}}},
+	}
+}
+
+// sameCache: a list that is nil being an empty one?
+func sameCache(a, b api.Cache) bool {
+	return a.Room == b.Room && a.Floor == b.Floor && slices.Equal(a.Seen, b.Seen)
+}
+
+// spoilCache: all that was seen, the spare room, too.
+func spoilCache(c api.Cache) {
+	l := c.Seen[:cap(c.Seen)]
+	for k := range l {
+		l[k] = api.Use{Ticket: 85, Epoch: 85, Counter: 85}
+	}
+}
+
+func TestCacheIsTheSame(t *testing.T) {
+	for i, c := range caches() {
+		if got := Cache(c); !sameCache(got, caches()[i]) || !sameCache(c, caches()[i]) {
+			t.Errorf("Cache(%v) = %v, and left %v", caches()[i], got, c)
+		}
+	}
+}
+
+func TestCacheSharesNothing(t *testing.T) {
+	for i, want := range caches() {
+		c := caches()[i]
+		got := Cache(c)
+		spoilCache(c)
+		if !sameCache(got, want) {
+			t.Errorf("Cache(%v) keeps what was handed in: %v", want, got)
+		}
+		c = caches()[i]
+		spoilCache(Cache(c))
+		if !sameCache(c, want) {
+			t.Errorf("Cache(%v) shares with what was handed in: %v", want, c)
+		}
+	}
+}
+
+// TestCacheHasNoneOfTheSpareRoom: what is behind what was seen isn't copied.
+func TestCacheHasNoneOfTheSpareRoom(t *testing.T) {
+	room := []api.Use{{Ticket: 1}, {Ticket: 2}}
+	got := Cache(api.Cache{Seen: room[:1]})
+	if len(got.Seen) != 1 || got.Seen[0] != (api.Use{Ticket: 1}) {
+		t.Errorf("a cache of one use came as %v", got)
+	}
+	_ = append(got.Seen, api.Use{Ticket: 9})
+	if room[1] != (api.Use{Ticket: 2}) {
+		t.Errorf("what was put behind an answer stands in %v", room)
+	}
+}
