@@ -30,3 +30,25 @@ func Cache(c api.Cache) api.Cache {
 	c.Seen = slices.Clone(c.Seen)
 	return c
 }
+
+// Bundle that shares nothing with the one handed in.
+func Bundle(x api.Bundle) api.Bundle {
+	x.Entries = slices.Clone(x.Entries)
+	for k, e := range x.Entries {
+		x.Entries[k].Seed = bytes.Clone(e.Seed)
+	}
+	x.Gone = slices.Clone(x.Gone)
+	return x
+}
+
+// Memory that shares nothing with the one handed in.
+func Memory(m api.Memory) api.Memory {
+	m.Bundle, m.Cache = Bundle(m.Bundle), Cache(m.Cache)
+	return m
+}
+
+// Shelf that shares nothing with the one handed in.
+func Shelf(s api.Shelf) api.Shelf {
+	s.Disk, s.Memory = Disk(s.Disk), Memory(s.Memory)
+	return s
+}

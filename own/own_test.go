@@ -220,3 +220,128 @@ func TestCacheHasNoneOfTheSpareRoom(t *testing.T) {
 		t.Errorf("what was put behind an answer stands in %v", room)
 	}
 }
+
+// shelves of any kind, right or not, built anew each time.
+func shelves() []api.Shelf {
+	text := []byte("text")
+	gone := []api.Gone{{Ticket: 5, Epoch: 1}, {Ticket: 5, Epoch: 1}}
+	l := []api.Shelf{
+		{},
+		{Turn: 1, Number: 7, Memory: api.Memory{Clock: 300, Bundle: api.Bundle{Version: 2, Entries: []api.Entry{{Ticket: 5, Epoch: 1, Seed: []byte("seed")}}, Gone: gone[:1]}}},
+		{Turn: -3, Number: 1 << 63, Memory: api.Memory{Bundle: api.Bundle{Entries: []api.Entry{{Seed: text}, {Seed: text[1:]}, {}}, Gone: gone}}},
+		{Memory: api.Memory{Bundle: api.Bundle{Entries: []api.Entry{}, Gone: []api.Gone{}}}},
+	}
+	for k := range l {
+		l[k].Disk, l[k].Memory.Cache = disks()[k+1], caches()[k]
+	}
+	return l
+}
+
+// sameShelf: a list that is nil being an empty one?
+func sameShelf(a, b api.Shelf) bool {
+	x, y := a.Memory.Bundle, b.Memory.Bundle
+	entries := slices.EqualFunc(x.Entries, y.Entries, func(v, w api.Entry) bool {
+		return v.Ticket == w.Ticket && v.Epoch == w.Epoch && bytes.Equal(v.Seed, w.Seed)
+	})
+	return entries && x.Version == y.Version && slices.Equal(x.Gone, y.Gone) && a.Turn == b.Turn && a.Number == b.Number &&
+		a.Memory.Clock == b.Memory.Clock && sameCache(a.Memory.Cache, b.Memory.Cache) && sameDisk(a.Disk, b.Disk)
+}
+
+// spoils of a shelf: each of its lists, their spare room, too, is spoilt by one of them.
+func spoils(s api.Shelf) []func() {
+	l := []func(){
+		func() { spoilArea(s.Disk.Areas[0]) },
+		func() { spoilArea(s.Disk.Areas[1]) },
+		func() { spoilCache(s.Memory.Cache) },
+		func() {
+			for k := range s.Memory.Bundle.Gone[:cap(s.Memory.Bundle.Gone)] {
+				s.Memory.Bundle.Gone[:k+1][k] = api.Gone{Ticket: 85}
+			}
+		},
+		func() {
+			for k := range s.Memory.Bundle.Entries[:cap(s.Memory.Bundle.Entries)] {
+				s.Memory.Bundle.Entries[:k+1][k] = api.Entry{Ticket: 85}
+			}
+		},
+	}
+	for _, e := range s.Memory.Bundle.Entries {
+		l = append(l, func() { spoilArea(api.Area{Bytes: e.Seed}) })
+	}
+	return l
+}
+
+func TestShelfIsTheSame(t *testing.T) {
+	for i, s := range shelves() {
+		if got := Shelf(s); !sameShelf(got, shelves()[i]) || !sameShelf(s, shelves()[i]) {
+			t.Errorf("Shelf(%v) = %v, and left %v", shelves()[i], got, s)
+		}
+		if got := Memory(s.Memory); !sameShelf(api.Shelf{Memory: got}, api.Shelf{Memory: s.Memory}) {
+			t.Errorf("Memory(%v) = %v", s.Memory, got)
+		}
+		if got := Bundle(s.Memory.Bundle); !sameShelf(api.Shelf{Memory: api.Memory{Bundle: got}}, api.Shelf{Memory: api.Memory{Bundle: s.Memory.Bundle}}) {
+			t.Errorf("Bundle(%v) = %v", s.Memory.Bundle, got)
+		}
+	}
+}
+
+func TestShelfSharesNothing(t *testing.T) {
+	for i, want := range shelves() {
+		for k := range spoils(want) {
+			s := shelves()[i]
+			got := Shelf(s)
+			spoils(s)[k]()
+			if !sameShelf(got, want) {
+				t.Errorf("Shelf(%v) keeps what was handed in: %v", want, got)
+			}
+			s = shelves()[i]
+			got = Shelf(s)
+			spoils(got)[k]()
+			if !sameShelf(s, want) {
+				t.Errorf("Shelf(%v) shares with what was handed in: %v", want, s)
+			}
+			alone := 0
+			for _, part := range partsOf(got, want) {
+				if !part {
+					alone++
+				}
+			}
+			if alone > 1 {
+				t.Errorf("lists of Shelf(%v) share memory: %v", want, got)
+			}
+		}
+	}
+}
+
+// partsOf two shelves: which of their lists are the same?
+func partsOf(a, b api.Shelf) []bool {
+	l := []bool{
+		bytes.Equal(a.Disk.Areas[0].Bytes, b.Disk.Areas[0].Bytes),
+		bytes.Equal(a.Disk.Areas[1].Bytes, b.Disk.Areas[1].Bytes),
+		slices.Equal(a.Memory.Cache.Seen, b.Memory.Cache.Seen),
+		slices.Equal(a.Memory.Bundle.Gone, b.Memory.Bundle.Gone),
+	}
+	x, y := a.Memory.Bundle.Entries, b.Memory.Bundle.Entries
+	if len(x) > 0 && x[0].Ticket == 85 {
+		return append(l, false)
+	}
+	for k := range y {
+		l = append(l, bytes.Equal(x[k].Seed, y[k].Seed))
+	}
+	return l
+}
+
+// TestShelfHasNoneOfTheSpareRoom: what is behind a list isn't copied.
+func TestShelfHasNoneOfTheSpareRoom(t *testing.T) {
+	entries := []api.Entry{{Ticket: 1, Seed: []byte("seedbehind")[:4]}, {Ticket: 2}}
+	gone := []api.Gone{{Ticket: 1}, {Ticket: 2}}
+	got := Bundle(api.Bundle{Entries: entries[:1], Gone: gone[:1]})
+	if len(got.Entries) != 1 || len(got.Gone) != 1 || string(got.Entries[0].Seed) != "seed" {
+		t.Errorf("a bundle of one entry came as %v", got)
+	}
+	_ = append(got.Entries, api.Entry{Ticket: 9})
+	_ = append(got.Gone, api.Gone{Ticket: 9})
+	_ = append(got.Entries[0].Seed, "put on"...)
+	if entries[1].Ticket != 2 || gone[1].Ticket != 2 || string(entries[0].Seed[:10]) != "seedbehind" {
+		t.Errorf("what was put behind an answer stands in %v, %v", entries, gone)
+	}
+}

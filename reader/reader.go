@@ -57,3 +57,10 @@ func (r *Reader) Number() uint64 {
 	v, _ := word.Get(r.Next(numberSize))
 	return v
 }
+
+// End of all: nothing may be left.
+func (r *Reader) End() {
+	if len(r.Left) > 0 {
+		r.Keep(api.ErrLong)
+	}
+}

@@ -135,3 +135,22 @@ func TestNumber(t *testing.T) {
 		check(t, r, x.b, api.ErrForm)
 	}
 }
+
+func TestEnd(t *testing.T) {
+	for _, x := range []struct {
+		left []byte
+		is   api.Errno
+		want api.Errno
+	}{
+		{nil, api.OK, api.OK},
+		{[]byte{}, api.OK, api.OK},
+		{[]byte{0}, api.OK, api.ErrLong},
+		{[]byte{1, 2, 3}, api.OK, api.ErrLong},
+		{nil, api.ErrForm, api.ErrForm},
+		{[]byte{1}, api.ErrShort, api.ErrShort},
+	} {
+		r := &Reader{Left: x.left, Wrong: x.is}
+		r.End()
+		check(t, r, x.left, x.want)
+	}
+}
