@@ -52,3 +52,14 @@ func Shelf(s api.Shelf) api.Shelf {
 	s.Disk, s.Memory = Disk(s.Disk), Memory(s.Memory)
 	return s
 }
+
+// Issuer that shares nothing with the one handed in.
+func Issuer(s api.Issuer) api.Issuer {
+	s.Key = bytes.Clone(s.Key)
+	s.Holders = slices.Clone(s.Holders)
+	for k, h := range s.Holders {
+		s.Holders[k].Seed = bytes.Clone(h.Seed)
+	}
+	s.Gone = slices.Clone(s.Gone)
+	return s
+}

@@ -345,3 +345,94 @@ func TestShelfHasNoneOfTheSpareRoom(t *testing.T) {
 		t.Errorf("what was put behind an answer stands in %v, %v", entries, gone)
 	}
 }
+
+// issuers of any kind, right or not, built anew each time.
+func issuers() []api.Issuer {
+	text := []byte("text")
+	gone := []api.Gone{{Ticket: 5, Epoch: 1}, {Ticket: 5, Epoch: 1}}
+	return []api.Issuer{
+		{},
+		{Key: []byte{}, Holders: []api.Holder{}, Gone: []api.Gone{}},
+		{Key: []byte("key"), Version: 7, Holders: []api.Holder{{Ticket: 5, Epoch: 1, Device: 2, Seed: []byte("seed")}, {Ticket: 6}}, Gone: gone[:1]},
+		{Key: text, Version: 1 << 63, Holders: []api.Holder{{Seed: text}, {Seed: text[1:]}, {Epoch: 9}, {Epoch: 9}}, Gone: gone},
+	}
+}
+
+// sameIssuer: a list that is nil being an empty one?
+func sameIssuer(a, b api.Issuer) bool {
+	holders := slices.EqualFunc(a.Holders, b.Holders, func(v, w api.Holder) bool {
+		return v.Ticket == w.Ticket && v.Epoch == w.Epoch && v.Device == w.Device && bytes.Equal(v.Seed, w.Seed)
+	})
+	return holders && bytes.Equal(a.Key, b.Key) && a.Version == b.Version && slices.Equal(a.Gone, b.Gone)
+}
+
+// spoilsOfIssuer: each of its lists, their spare room, too, is spoilt by one of them.
+func spoilsOfIssuer(s api.Issuer) []func() {
+	l := []func(){
+		func() { spoilArea(api.Area{Bytes: s.Key}) },
+		func() {
+			for k := range s.Gone[:cap(s.Gone)] {
+				s.Gone[:k+1][k] = api.Gone{Ticket: 85}
+			}
+		},
+		func() {
+			for k := range s.Holders[:cap(s.Holders)] {
+				s.Holders[:k+1][k] = api.Holder{Ticket: 85}
+			}
+		},
+	}
+	for _, h := range s.Holders {
+		l = append(l, func() { spoilArea(api.Area{Bytes: h.Seed}) })
+	}
+	return l
+}
+
+func TestIssuerIsTheSame(t *testing.T) {
+	for i, s := range issuers() {
+		if got := Issuer(s); !sameIssuer(got, issuers()[i]) || !sameIssuer(s, issuers()[i]) {
+			t.Errorf("Issuer(%v) = %v, and left %v", issuers()[i], got, s)
+		}
+	}
+}
+
+func TestIssuerSharesNothing(t *testing.T) {
+	for i, want := range issuers() {
+		for k := range spoilsOfIssuer(want) {
+			s := issuers()[i]
+			got := Issuer(s)
+			spoilsOfIssuer(s)[k]()
+			if !sameIssuer(got, want) {
+				t.Errorf("Issuer(%v) keeps what was handed in: %v", want, got)
+			}
+			s = issuers()[i]
+			spoilsOfIssuer(Issuer(s))[k]()
+			if !sameIssuer(s, want) {
+				t.Errorf("Issuer(%v) shares with what was handed in: %v", want, s)
+			}
+		}
+	}
+	text := []byte("text")
+	got := Issuer(api.Issuer{Key: text, Holders: []api.Holder{{Seed: text}, {Seed: text}}})
+	got.Key[0], got.Holders[0].Seed[1] = 'n', 'o'
+	if string(got.Key) != "next" || string(got.Holders[0].Seed) != "toxt" || string(got.Holders[1].Seed) != "text" {
+		t.Errorf("lists of an answer share memory: %q, %v", got.Key, got.Holders)
+	}
+}
+
+// TestIssuerHasNoneOfTheSpareRoom: what is behind a list isn't copied.
+func TestIssuerHasNoneOfTheSpareRoom(t *testing.T) {
+	key, seed := []byte("keybehind"), []byte("seedbehind")
+	holders := []api.Holder{{Ticket: 1, Seed: seed[:4]}, {Ticket: 2}}
+	gone := []api.Gone{{Ticket: 1}, {Ticket: 2}}
+	got := Issuer(api.Issuer{Key: key[:3], Holders: holders[:1], Gone: gone[:1]})
+	if len(got.Holders) != 1 || len(got.Gone) != 1 || string(got.Key) != "key" || string(got.Holders[0].Seed) != "seed" {
+		t.Errorf("an issuer of one holder came as %v", got)
+	}
+	_ = append(got.Key, "put on"...)
+	_ = append(got.Holders, api.Holder{Ticket: 9})
+	_ = append(got.Gone, api.Gone{Ticket: 9})
+	_ = append(got.Holders[0].Seed, "put on"...)
+	if string(key) != "keybehind" || string(seed) != "seedbehind" || holders[1].Ticket != 2 || gone[1].Ticket != 2 {
+		t.Errorf("what was put behind an answer stands in %q, %q, %v, %v", key, seed, holders, gone)
+	}
+}
